@@ -187,6 +187,12 @@ func both(x, y impl.Tree) impl.Tree {
 	return sortedTree(slices.Concat(x.Entries, y.Entries))
 }
 
+// roomyTree is a tree with entries behind its end, and all of its room, kept.
+func roomyTree(x impl.Tree) (impl.Tree, []impl.Entry) {
+	room := append(slices.Clone(x.Entries), impl.Entry{Path: "behind"}, impl.Entry{Path: "behind/it"})
+	return impl.Tree{Entries: room[:len(x.Entries)]}, slices.Clone(room[:cap(room)])
+}
+
 // wantTree asks with trees that have entries behind their ends, and holds
 // what is answered against what is wanted; the trees and what is behind them
 // must stay, even when the answer is written over with its spare room.
@@ -194,9 +200,8 @@ func wantTree(t *testing.T, what string, want impl.Tree, code int, ask func(tree
 	t.Helper()
 	given, kept := []impl.Tree{}, [][]impl.Entry{}
 	for _, x := range trees {
-		room := append(slices.Clone(x.Entries), impl.Entry{Path: "behind"}, impl.Entry{Path: "behind/it"})
-		given = append(given, impl.Tree{Entries: room[:len(x.Entries)]})
-		kept = append(kept, slices.Clone(room[:cap(room)]))
+		roomy, room := roomyTree(x)
+		given, kept = append(given, roomy), append(kept, room)
 	}
 	got, gotCode := ask(given)
 	if gotCode != code || !sameTree(got, want) {
@@ -220,15 +225,28 @@ func wantTree(t *testing.T, what string, want impl.Tree, code int, ask func(tree
 func wantNewTexts(t *testing.T, what string, got impl.Tree, given []impl.Tree) {
 	t.Helper()
 	for _, x := range given {
-		for _, e := range x.Entries {
-			for _, f := range got.Entries {
-				if shareBytes(e.Path, f.Path) || shareBytes(e.Text, f.Text) {
-					t.Errorf("%s: %q lies in the memory of an argument", what, f.Path)
-					return
-				}
+		wantApart(t, what, treeTexts(got), treeTexts(x))
+	}
+}
+
+func wantApart(t *testing.T, what string, got, given []string) {
+	t.Helper()
+	for _, text := range got {
+		for _, other := range given {
+			if shareBytes(text, other) {
+				t.Errorf("%s: %.20q lies in the memory of an argument", what, text)
+				return
 			}
 		}
 	}
+}
+
+func treeTexts(x impl.Tree) []string {
+	texts := []string{}
+	for _, e := range x.Entries {
+		texts = append(texts, e.Path, e.Text)
+	}
+	return texts
 }
 
 func wantGet(t *testing.T, x impl.Tree, path string) {
