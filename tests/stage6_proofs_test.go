@@ -879,6 +879,28 @@ func TestProofsOfTreesWithOneSum(t *testing.T) {
 	}
 }
 
+// sameSum is two names under which a file alone has one sum at every width,
+// that of eight bytes too.
+const sameSum, sameSum2 = "tmj==bsthafik", "dahyr-xwegqgo"
+
+// Promises 12 and 14 at all widths.
+func TestTreesWithOneSumAtEveryWidth(t *testing.T) {
+	x, y := filled(sameSum+":text"), filled(sameSum2+":text")
+	for _, width := range allWidths() {
+		if !wantSumsTellApart(t, x, y, width) {
+			t.Errorf("width %d: two sums", width)
+		}
+		for _, path := range []string{sameSum, sameSum2} {
+			p, q := wantProve(t, x, path, width), wantProve(t, y, path, width)
+			if !wantEvidenceOf(t, impl.TreeSum(x, width), path, p, q, width) {
+				t.Errorf("width %d, %s: the proofs tell one thing", width, path)
+			}
+			wantEvidence(t, p, q, width)
+			wantEvidence(t, q, p, width)
+		}
+	}
+}
+
 // forger has texts by their digits, out of which proofs are made that are of
 // no tree, and hold.
 type forger struct {
